@@ -307,9 +307,23 @@ func renamed(bits int, works, names []int) api.Plan {
 	return p
 }
 
-// TestAllPlansOfFour: whatever need each other, with works from 1 to 3, under names that rise, fall, and are mixed.
+// namings of n tasks, all of them.
+func namings(n int) [][]int {
+	if n == 0 {
+		return [][]int{nil}
+	}
+	var all [][]int
+	for _, names := range namings(n - 1) {
+		for at := range n {
+			all = append(all, slices.Insert(slices.Clone(names), at, n-1))
+		}
+	}
+	return all
+}
+
+// TestAllPlansOfFour: all that there are, with works from 1 to 3.
 func TestAllPlansOfFour(t *testing.T) {
-	for _, names := range [][]int{{0, 1, 2, 3}, {3, 2, 1, 0}, {2, 0, 3, 1}, {1, 3, 0, 2}} {
+	for _, names := range namings(4) {
 		for bits := range 1 << 6 {
 			for n := range 81 {
 				holdAll(t, renamed(bits, []int{n%3 + 1, n/3%3 + 1, n/9%3 + 1, n/27 + 1}, names))
@@ -318,7 +332,7 @@ func TestAllPlansOfFour(t *testing.T) {
 	}
 }
 
-// TestAllNeedsOfSix: whatever need each other, where many ways are as long.
+// TestAllNeedsOfSix: whatever need each other, under names that rise and names that are mixed, where many ways are as long.
 func TestAllNeedsOfSix(t *testing.T) {
 	for _, names := range [][]int{{0, 1, 2, 3, 4, 5}, {5, 0, 4, 1, 3, 2}} {
 		for bits := range 1 << 15 {
